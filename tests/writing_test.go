@@ -236,12 +236,16 @@ func TestLengthsOfObjects(t *testing.T) {
 	}
 }
 
-func TestBytesOfObjects(t *testing.T) {
-	for _, c := range []struct {
-		what string
-		o    impl.Object
-		text string
-	}{
+// toldObject is an object, and its bytes as a text.
+type toldObject struct {
+	what string
+	o    impl.Object
+	text string
+}
+
+// toldObjects are valid objects whose bytes are told.
+func toldObjects() []toldObject {
+	return []toldObject{
 		{"nothing", impl.Object{}, "obj\x01\x00\x00\x00\x01\x00\x00" + "\x00"},
 		{"empty lists", impl.Object{Sections: []impl.Section{}, Symbols: []impl.Symbol{}}, "obj\x01\x00\x00\x00\x01\x00\x00" + "\x00"},
 		{"a blank section", sectionsOf(blankSection(5)), "obj\x01\x01\x00\x00\x05\x00\x00" + "\x01\x00\x03\x08\x05\x00" + "\x00buf\x00"},
@@ -250,7 +254,11 @@ func TestBytesOfObjects(t *testing.T) {
 		{"a section and a symbol with one name", impl.Object{Sections: []impl.Section{filledSection(1)}, Symbols: []impl.Symbol{{Name: "code", Bind: strong, Value: 1}}}, "obj\x01\x01\x01\x00\x06\x00\x00" + "\x01\x00\x01\x01\x01\x00" + "\x01\x00\x01\x02\x01\x00" + "\x00code\x00" + "\x00"},
 		{"the first place of a name", symbolsOf(impl.Symbol{Name: "xin", Where: fixed}, impl.Symbol{Name: "in", Where: fixed}, impl.Symbol{Name: "main", Where: fixed}), "obj\x01\x00\x03\x00\x0a\x00\x00" + "\x06\x00\x00\x00\x00\x00" + "\x03\x00\x00\x00\x00\x00" + "\x01\x00\x00\x00\x00\x00" + "\x00main\x00xin\x00"},
 		{"one object", oneObject(), "obj\x01\x01\x02\x01\x10\x00\x00" + "\x01\x00\x01\x04\x06\x01" + "\x06\x00\x01\x02\x00\x00" + "\x0b\x00\x01\x01\x00\x00" + "\x01\x03\x01\xec\x03" + "\x00code\x00main\x00puts\x00" + "\x00\x00\x00\x00\x00\x00"},
-	} {
+	}
+}
+
+func TestBytesOfObjects(t *testing.T) {
+	for _, c := range toldObjects() {
 		if x := impl.WriteObject(c.o); string(x) != c.text {
 			t.Errorf("%s is written as %q", c.what, x)
 		}
