@@ -60,25 +60,44 @@ func objectIn(b []byte) (o impl.Object, ok bool) {
 	return o, true
 }
 
+// checkReading holds the object that is read from bytes or lines against the one that they tell, and reports whether there is one.
+func checkReading[T byte | string](t *testing.T, from []T, read, told func([]T) (impl.Object, bool), write func(impl.Object) []T) bool {
+	t.Helper()
+	was := slices.Clone(from)
+	want, wanted := told(from)
+	o, ok := read(from)
+	switch {
+	case !slices.Equal(from, was):
+		t.Errorf("%q was changed to %q", was, from)
+	case ok != wanted:
+		t.Errorf("%q is read: %v, not %v", from, ok, wanted)
+	case !ok && !reflect.DeepEqual(o, impl.Object{}):
+		t.Errorf("%q is refused with %v", from, o)
+	case ok && !sameObject(o, want):
+		t.Errorf("%q is read as %v, not as %v", from, o, want)
+	case ok && !impl.ObjectValid(o):
+		t.Errorf("%q is read as %v, which is not valid", from, o)
+	case ok && !slices.Equal(write(o), from):
+		t.Errorf("%q is read as %v, which is written as %q", from, o, write(o))
+	}
+	return ok
+}
+
 // checkObject holds what is read from bytes against what should be, and reports whether there is an object.
 func checkObject(t *testing.T, b []byte) bool {
 	t.Helper()
-	was := slices.Clone(b)
-	want, wanted := objectIn(b)
-	o, ok := impl.ReadObject(b)
-	switch {
-	case !bytes.Equal(b, was):
-		t.Errorf("%q was changed to %q", was, b)
-	case ok != wanted:
-		t.Errorf("%q is read: %v, not %v", b, ok, wanted)
-	case !ok && !reflect.DeepEqual(o, impl.Object{}):
-		t.Errorf("%q is refused with %v", b, o)
-	case ok && !sameObject(o, want):
-		t.Errorf("%q is read as %v, not as %v", b, o, want)
-	case ok && !impl.ObjectValid(o):
-		t.Errorf("%q is read as %v, which is not valid", b, o)
-	case ok && !bytes.Equal(impl.WriteObject(o), b):
-		t.Errorf("%q is read as %v, which is written as %q", b, o, impl.WriteObject(o))
+	return checkReading(t, b, impl.ReadObject, objectIn, impl.WriteObject)
+}
+
+// checkWrittenBack says that the object that is read from bytes or lines is valid and written as these, and reports whether there is one.
+func checkWrittenBack[T byte | string](t *testing.T, from []T, read func([]T) (impl.Object, bool), write func(impl.Object) []T) bool {
+	t.Helper()
+	o, ok := read(from)
+	if ok && !impl.ObjectValid(o) {
+		t.Errorf("%q is read as %v, which is not valid", from, o)
+	}
+	if ok && !slices.Equal(write(o), from) {
+		t.Errorf("%q is read as %v, which is written as %q", from, o, write(o))
 	}
 	return ok
 }
@@ -95,16 +114,22 @@ func checkReadBack(t *testing.T, o impl.Object) {
 	}
 }
 
+// checkNotRead says that no object is read from bytes or lines.
+func checkNotRead[T byte | string](t *testing.T, what string, from []T, read func([]T) (impl.Object, bool)) {
+	t.Helper()
+	was := slices.Clone(from)
+	if o, ok := read(from); ok || !reflect.DeepEqual(o, impl.Object{}) {
+		t.Errorf("%s: %q is read as %v, %v", what, from, o, ok)
+	}
+	if !slices.Equal(from, was) {
+		t.Errorf("%s: %q was changed to %q", what, was, from)
+	}
+}
+
 // checkRefused says that bytes are not read.
 func checkRefused(t *testing.T, what string, b []byte) {
 	t.Helper()
-	was := slices.Clone(b)
-	if o, ok := impl.ReadObject(b); ok || !reflect.DeepEqual(o, impl.Object{}) {
-		t.Errorf("%s: %q is read as %v, %v", what, b, o, ok)
-	}
-	if !bytes.Equal(b, was) {
-		t.Errorf("%s: %q was changed to %q", what, was, b)
-	}
+	checkNotRead(t, what, b, impl.ReadObject)
 }
 
 // blankObject is an object whose sections have no bytes, as many as there may be.
@@ -195,17 +220,10 @@ func TestPromise3(t *testing.T) {
 			values := otherValues(b[at])
 			changed := slices.Clone(b)
 			changed[at] = values[(n+3*i)%len(values)]
-			o, ok := impl.ReadObject(changed)
-			if !ok {
+			if checkWrittenBack(t, changed, impl.ReadObject, impl.WriteObject) {
+				read++
+			} else {
 				refused++
-				continue
-			}
-			read++
-			if !impl.ObjectValid(o) {
-				t.Errorf("%q is read as %v, which is not valid", changed, o)
-			}
-			if x := impl.WriteObject(o); !bytes.Equal(x, changed) {
-				t.Errorf("%q is read as %v, which is written as %q", changed, o, x)
 			}
 		}
 	}
@@ -502,8 +520,8 @@ func TestWrongBytesAreRefused(t *testing.T) {
 	}
 }
 
-// TestOtherObjectsAreNotRead says that there are no bytes for objects that are not valid.
-func TestOtherObjectsAreNotRead(t *testing.T) {
+// otherObjects are objects that are not valid, many by a single number or name, and that could be written if one did not look.
+func otherObjects() []impl.Object {
 	list := append(wrongObjects(),
 		impl.Object{Sections: manySections(9)},
 		symbolsOf(fixedSymbols(13)...),
@@ -543,7 +561,12 @@ func TestOtherObjectsAreNotRead(t *testing.T) {
 	for _, name := range wrongNames() {
 		list = append(list, symbolsOf(impl.Symbol{Name: name, Where: fixed}), sectionsOf(impl.Section{Name: name, Kind: impl.SectionData, Align: 1}))
 	}
-	for _, o := range list {
+	return list
+}
+
+// TestOtherObjectsAreNotRead says that there are no bytes for objects that are not valid.
+func TestOtherObjectsAreNotRead(t *testing.T) {
+	for _, o := range otherObjects() {
 		if impl.ObjectValid(o) {
 			t.Errorf("%v is valid", o)
 		}
