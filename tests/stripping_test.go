@@ -207,14 +207,17 @@ func TestObjectsAreStripped(t *testing.T) {
 	}
 }
 
-func TestNamesAreHidden(t *testing.T) {
-	for _, o := range append(edgeObjects(), someObjects()...) {
-		for _, keep := range keepLists(o) {
-			checkHidden(t, o, keep...)
-		}
-	}
+// fewObjects are valid objects, not as many as dumpedObjects, for what is looked at with many lists each.
+func fewObjects() []impl.Object {
+	list := append(edgeObjects(), someObjects()...)
 	for n := range 200 {
-		o := mixedObject(n)
+		list = append(list, mixedObject(n))
+	}
+	return list
+}
+
+func TestNamesAreHidden(t *testing.T) {
+	for _, o := range fewObjects() {
 		for _, keep := range keepLists(o) {
 			checkHidden(t, o, keep...)
 		}
@@ -658,38 +661,37 @@ func spoil(o impl.Object) {
 	fillUp(o.Symbols, impl.Symbol{Name: "spoiled"})
 }
 
+// checkOwnMemory says that what is made of a valid object shares no memory with it or with what is made of it again, and that it is left alone.
+func checkOwnMemory(t *testing.T, what string, given impl.Object, edit func(impl.Object) impl.Object) {
+	t.Helper()
+	o := roomy(given)
+	was := wholeOf(o)
+	first, second, third := edit(o), edit(o), edit(o)
+	want := cloneObject(first)
+	if !sameObject(second, want) {
+		t.Errorf("%s makes %v and %v of %v", what, want, second, given)
+	}
+	checkApart(t, first)
+	spoil(first)
+	if !sameObject(second, want) {
+		t.Errorf("two results of %s for %v share memory", what, given)
+	}
+	spoil(third)
+	if !reflect.DeepEqual(wholeOf(o), was) {
+		t.Errorf("%s changes %v, or a change of its result does", what, given)
+	}
+	spoil(o)
+	if !sameObject(second, want) {
+		t.Errorf("the result of %s changes with %v", what, given)
+	}
+}
+
 func TestStrippedObjectsHaveTheirOwnMemory(t *testing.T) {
-	for _, c := range []struct {
-		what string
-		make func(impl.Object) impl.Object
-	}{
-		{"StripLocals", impl.StripLocals},
-		{"StripWanted", impl.StripWanted},
-		{"HideNames without names", func(o impl.Object) impl.Object { return impl.HideNames(o, nil) }},
-		{"HideNames with all names", func(o impl.Object) impl.Object { return impl.HideNames(o, namesIn(o)) }},
-	} {
-		for _, given := range dumpedObjects() {
-			o := roomy(given)
-			was := wholeOf(o)
-			first, second, third := c.make(o), c.make(o), c.make(o)
-			want := cloneObject(first)
-			if !sameObject(second, want) {
-				t.Errorf("%s makes %v and %v of %v", c.what, want, second, given)
-			}
-			checkApart(t, first)
-			spoil(first)
-			if !sameObject(second, want) {
-				t.Errorf("two results of %s for %v share memory", c.what, given)
-			}
-			spoil(third)
-			if !reflect.DeepEqual(wholeOf(o), was) {
-				t.Errorf("%s changes %v, or a change of its result does", c.what, given)
-			}
-			spoil(o)
-			if !sameObject(second, want) {
-				t.Errorf("the result of %s changes with %v", c.what, given)
-			}
-		}
+	for _, given := range dumpedObjects() {
+		checkOwnMemory(t, "StripLocals", given, impl.StripLocals)
+		checkOwnMemory(t, "StripWanted", given, impl.StripWanted)
+		checkOwnMemory(t, "HideNames without names", given, func(o impl.Object) impl.Object { return impl.HideNames(o, nil) })
+		checkOwnMemory(t, "HideNames with all names", given, func(o impl.Object) impl.Object { return impl.HideNames(o, namesIn(given)) })
 	}
 }
 
