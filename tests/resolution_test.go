@@ -394,16 +394,23 @@ func toldResolved() []resolved {
 	}
 }
 
+// objectsRead returns the objects whose lines are in lists.
+func objectsRead(t *testing.T, what string, lists [][]string) []impl.Object {
+	t.Helper()
+	var list []impl.Object
+	for _, lines := range lists {
+		o, ok := impl.ReadDump(lines)
+		if !ok {
+			t.Errorf("%s: %q is no object", what, lines)
+		}
+		list = append(list, o)
+	}
+	return list
+}
+
 func TestLinesOfResolvedObjects(t *testing.T) {
 	for _, c := range toldResolved() {
-		var list []impl.Object
-		for _, lines := range c.lines {
-			o, ok := impl.ReadDump(lines)
-			if !ok {
-				t.Errorf("%s: %q is no object", c.what, lines)
-			}
-			list = append(list, o)
-		}
+		list := objectsRead(t, c.what, c.lines)
 		if !impl.ObjectsValid(list) {
 			t.Errorf("%s is not valid", c.what)
 		}
@@ -699,8 +706,8 @@ func TestTheOrderOfObjects(t *testing.T) {
 	}
 }
 
-// TestOneWrongObject puts an object that is not valid at every place among valid ones.
-func TestOneWrongObject(t *testing.T) {
+// notValidObjects are objects that are not valid, by what is wrong with them or by a number.
+func notValidObjects() map[string]impl.Object {
 	wrong := spoiledObjects()
 	for i, o := range append(otherObjects(), symbolsOf(make([]impl.Symbol, 1)...), sectionsOf(make([]impl.Section, 1)...)) {
 		wrong[fmt.Sprintf("the object %d", i)] = o
@@ -713,6 +720,12 @@ func TestOneWrongObject(t *testing.T) {
 			wrong[fmt.Sprintf("the far symbol %d, %d", i, n)] = impl.Object{Sections: manySections(2), Symbols: []impl.Symbol{s}}
 		}
 	}
+	return wrong
+}
+
+// TestOneWrongObject puts an object that is not valid at every place among valid ones.
+func TestOneWrongObject(t *testing.T) {
+	wrong := notValidObjects()
 	// They give and want names twice, if one does not look.
 	beside := symbolsOf(impl.Symbol{Name: "give", Bind: strong, Where: fixed}, impl.Symbol{Name: "want", Bind: strong, Where: none}, impl.Symbol{Name: "f0", Bind: weak, Where: fixed})
 	for what, o := range wrong {
