@@ -3,7 +3,6 @@ package tests
 import (
 	"fmt"
 	"math"
-	"reflect"
 	"slices"
 	"testing"
 
@@ -97,21 +96,14 @@ func checkPlaced(t *testing.T, list []impl.Object, base int) {
 // checkNotPlaced says that objects cannot be placed from a base on, and that they stay as they are.
 func checkNotPlaced(t *testing.T, what string, base int, list ...impl.Object) {
 	t.Helper()
-	var was []impl.Object
-	for _, o := range list {
-		was = append(was, cloneObject(o))
-	}
+	was := cloneObjects(list)
 	if places, end, ok := impl.PlaceSections(list, base); places != nil || end != 0 || ok {
 		t.Errorf("%s: from %d on %v are at %v up to %d, %v", what, base, list, places, end, ok)
 	}
 	if ends := impl.KindEnds(list, base); ends != nil {
 		t.Errorf("%s: from %d on the kinds of %v are in %v", what, base, list, ends)
 	}
-	for i, o := range list {
-		if !sameObject(o, was[i]) {
-			t.Errorf("%s: %v was changed to %v", what, was[i], o)
-		}
-	}
+	checkSame(t, what, list, was)
 }
 
 // sizedSection returns a section of a kind with size bytes.
@@ -652,12 +644,7 @@ func checkListsApart(t *testing.T, what string, lists [][]int) {
 // TestPlacesHaveTheirOwnMemory changes what the functions return, and what they were given.
 func TestPlacesHaveTheirOwnMemory(t *testing.T) {
 	for _, given := range append(someLists()[:600], slices.Repeat([]impl.Object{kindsObject(0, code, data, blank, code)}, 4)) {
-		list := make([]impl.Object, 0, len(given)+2)
-		var was []impl.Object
-		for _, o := range given {
-			list = append(list, roomy(o))
-			was = append(was, wholeOf(roomy(o)))
-		}
+		list := roomyList(given)
 		want := placedOf(given, 8)
 		first, _, _ := impl.PlaceSections(list, 8)
 		places, end, _ := impl.PlaceSections(list, 8)
@@ -670,16 +657,8 @@ func TestPlacesHaveTheirOwnMemory(t *testing.T) {
 			t.Errorf("the results for %v share memory with others", given)
 		}
 		checkPlaced(t, list, 8)
-		if behind := list[len(list):cap(list)]; !reflect.DeepEqual(behind, make([]impl.Object, 2)) {
-			t.Errorf("behind the objects %v %v is written", given, behind)
-		}
-		for i, o := range list {
-			if !reflect.DeepEqual(wholeOf(o), was[i]) {
-				t.Errorf("%v was changed to %v", was[i], o)
-			}
-			spoil(o)
-		}
-		fillUp(list, symbolsOf(impl.Symbol{Name: "spoiled"}))
+		checkLeftAlone(t, list, given)
+		spoilList(list)
 		if !sameLists(places, want.places) || end != want.end || !sameLists(ends, want.ends) {
 			t.Errorf("the results change with the objects %v", given)
 		}

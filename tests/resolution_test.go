@@ -103,10 +103,7 @@ func checkResolved(t *testing.T, list []impl.Object, names ...string) {
 // checkNotResolved says that objects are not valid, and that each function returns its one result for them.
 func checkNotResolved(t *testing.T, what string, list ...impl.Object) {
 	t.Helper()
-	var was []impl.Object
-	for _, o := range list {
-		was = append(was, cloneObject(o))
-	}
+	was := cloneObjects(list)
 	if impl.ObjectsValid(list) {
 		t.Errorf("%s: %v are valid", what, list)
 	}
@@ -121,6 +118,21 @@ func checkNotResolved(t *testing.T, what string, list ...impl.Object) {
 	if x := impl.NamesMissing(list); x != nil {
 		t.Errorf("%s: in %v %q are missing", what, list, x)
 	}
+	checkSame(t, what, list, was)
+}
+
+// cloneObjects returns objects with memory of their own.
+func cloneObjects(list []impl.Object) []impl.Object {
+	var x []impl.Object
+	for _, o := range list {
+		x = append(x, cloneObject(o))
+	}
+	return x
+}
+
+// checkSame says that objects are what they were.
+func checkSame(t *testing.T, what string, list, was []impl.Object) {
+	t.Helper()
 	for i, o := range list {
 		if !sameObject(o, was[i]) {
 			t.Errorf("%s: %v was changed to %v", what, was[i], o)
@@ -740,15 +752,40 @@ func TestOneWrongObject(t *testing.T) {
 	}
 }
 
+// roomyList returns objects with memory of their own, with room behind each of their lists and behind the last object.
+func roomyList(given []impl.Object) []impl.Object {
+	list := make([]impl.Object, 0, len(given)+2)
+	for _, o := range given {
+		list = append(list, roomy(o))
+	}
+	return list
+}
+
+// checkLeftAlone says that objects of roomyList, and the room there, are as they were made.
+func checkLeftAlone(t *testing.T, list, given []impl.Object) {
+	t.Helper()
+	if behind := list[len(list):cap(list)]; !reflect.DeepEqual(behind, make([]impl.Object, 2)) {
+		t.Errorf("behind the objects %v %v is written", given, behind)
+	}
+	for i, o := range list {
+		if was := wholeOf(roomy(given[i])); !reflect.DeepEqual(wholeOf(o), was) {
+			t.Errorf("%v was changed to %v", was, o)
+		}
+	}
+}
+
+// spoilList puts something else into each list of objects, up to its capacity, and in the place of the objects.
+func spoilList(list []impl.Object) {
+	for _, o := range list {
+		spoil(o)
+	}
+	fillUp(list, symbolsOf(impl.Symbol{Name: "spoiled"}))
+}
+
 // TestNamesOfObjectsHaveTheirOwnMemory changes what the functions return, and what they were given.
 func TestNamesOfObjectsHaveTheirOwnMemory(t *testing.T) {
 	for _, given := range append(someLists()[:400], spreadObjects(4, impl.Symbol{Bind: strong, Where: none}), slices.Repeat(spreadObjects(1, impl.Symbol{Bind: strong, Where: fixed}), 4)) {
-		list := make([]impl.Object, 0, len(given)+2)
-		var was []impl.Object
-		for _, o := range given {
-			list = append(list, roomy(o))
-			was = append(was, wholeOf(roomy(o)))
-		}
+		list := roomyList(given)
 		names := namesOfAll(given)
 		for _, namesOf := range []func([]impl.Object) []string{impl.NamesTwice, impl.NamesMissing} {
 			first, second := namesOf(list), namesOf(list)
@@ -757,11 +794,7 @@ func TestNamesOfObjectsHaveTheirOwnMemory(t *testing.T) {
 			if !slices.Equal(second, want) || !slices.Equal(namesOf(list), want) {
 				t.Errorf("in %v %q changes with another result", given, want)
 			}
-			for i, o := range list {
-				if !reflect.DeepEqual(wholeOf(o), was[i]) {
-					t.Fatalf("%v was changed", given)
-				}
-			}
+			checkLeftAlone(t, list, given)
 		}
 		twice, missing := impl.NamesTwice(list), impl.NamesMissing(list)
 		fillUp(impl.NamesTwice(list), "spoiled")
@@ -772,16 +805,8 @@ func TestNamesOfObjectsHaveTheirOwnMemory(t *testing.T) {
 			impl.FindName(list, name)
 		}
 		impl.ObjectsValid(list)
-		if behind := list[len(list):cap(list)]; !reflect.DeepEqual(behind, make([]impl.Object, 2)) {
-			t.Errorf("behind the objects %v %v is written", given, behind)
-		}
-		for i, o := range list {
-			if !reflect.DeepEqual(wholeOf(o), was[i]) {
-				t.Errorf("%v was changed", given)
-			}
-			spoil(o)
-		}
-		fillUp(list, symbolsOf(impl.Symbol{Name: "spoiled"}))
+		checkLeftAlone(t, list, given)
+		spoilList(list)
 		if !slices.Equal(twice, twiceOf(given)) || !slices.Equal(missing, missingOf(given)) {
 			t.Errorf("%q and %q change with the objects %v", twice, missing, given)
 		}
